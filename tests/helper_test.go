@@ -6,6 +6,7 @@ import (
 	"strconv"
 	"strings"
 	"testing"
+	"unsafe"
 )
 
 const maxText = 100000
@@ -56,5 +57,17 @@ func wantNumbers(t *testing.T, call string, given string, got, want []int64) {
 	t.Helper()
 	if !slices.Equal(got, want) {
 		t.Errorf("%s of %s: %s, want %s", call, short(given), few(got), few(want))
+	}
+}
+
+// wantOwnMemory tells of texts of an answer that lie within a text that was handed in.
+func wantOwnMemory(t *testing.T, call string, given string, answered ...string) {
+	t.Helper()
+	from := uintptr(unsafe.Pointer(unsafe.StringData(given)))
+	for _, text := range answered {
+		at := uintptr(unsafe.Pointer(unsafe.StringData(text)))
+		if text != "" && from <= at && at < from+uintptr(len(given)) {
+			t.Errorf("%s of %s: %s is a piece of the argument's memory", call, short(given), short(text))
+		}
 	}
 }
