@@ -330,15 +330,21 @@ func quotedBytes(text string) (data []byte, good bool) {
 			data = append(data, text[at])
 			continue
 		}
-		if len(text)-at < 3 {
+		b, coded := hexByte(text[at+1:])
+		if !coded {
 			return nil, false
 		}
-		b, err := strconv.ParseUint(text[at+1:at+3], 16, 8)
-		if err != nil {
-			return nil, false
-		}
-		data = append(data, byte(b))
+		data = append(data, b)
 		at += 2
 	}
 	return data, true
+}
+
+// hexByte is the byte that the two digits of base 16 at a text's beginning make, if they are there.
+func hexByte(text string) (b byte, coded bool) {
+	if len(text) < 2 {
+		return 0, false
+	}
+	number, err := strconv.ParseUint(text[:2], 16, 8)
+	return byte(number), err == nil
 }
