@@ -262,6 +262,24 @@ func TestReadContentPoints(t *testing.T) {
 	}
 }
 
+// TestReadContentNothingBehind has `;` with nothing of their own behind them: at the end, and ahead of another one.
+func TestReadContentNothingBehind(t *testing.T) {
+	for _, none := range []string{";", "; ", ";(c)", ";;", "; ;", ";;;", "; (c) ; (d) ;", ";\r\n ;\t;", strings.Repeat(";", 50)} {
+		checkContent(t, "a/b"+none, content("a", "b"))
+		checkContent(t, "a"+none, content("a", ""))
+		checkParams(t, none+";x=y", "x", "y")
+		checkParams(t, ";x=y"+none, "x", "y")
+		checkParams(t, ";x=\"y\""+none+";z= w"+none, "x", "y", "z", "w")
+		checkParams(t, none+";x*1=2"+none+";x*0=1", "x", "12")
+	}
+	checkContent(t, "a/b"+strings.Repeat(";", maxTokens-1), content("a", "b"))
+	checkResult(t, "a/b"+strings.Repeat(";", maxTokens), impl.ContentResult{Code: impl.ErrCount, At: int64(len("a/b") + maxTokens - 1)})
+	// They are no names.
+	names := strings.Repeat(";x=y", mostNames)
+	checkParams(t, names+";;;", "x", "y")
+	checkParams(t, ";;;"+names, "x", "y")
+}
+
 func TestReadContentIllParams(t *testing.T) {
 	for _, c := range []struct {
 		behind string
@@ -269,9 +287,9 @@ func TestReadContentIllParams(t *testing.T) {
 	}{
 		// No atom with a name.
 		{"; x", 5}, {";x", 4}, {";x;", 4}, {";x;y=z", 4}, {";x =y", 4}, {";x = y", 4}, {"; =x", 5}, {";=", 4}, {";= ", 4}, {";= x", 4}, {";=x=y", 4}, {";==", 4}, {";=\"x\"", 4}, {";=;", 4},
-		{";;", 4}, {"; ;", 5}, {";;x=y", 4}, {";(c);", 7}, {";\"x\"=y", 4}, {";\"x\"", 4}, {";\"x=y\"", 4}, {";[x]=y", 4}, {";[x=y]", 4}, {";<", 4}, {";,", 4}, {";:", 4}, {";@x=y", 4}, {";)", 4}, {";]", 4}, {";\\", 4}, {"; (c) x", 9},
+		{";;x", 5}, {"; ; x", 7}, {";;=", 5}, {";(c);x", 8}, {";;;\"x\"", 6}, {";\"x\"=y", 4}, {";\"x\"", 4}, {";\"x=y\"", 4}, {";[x]=y", 4}, {";[x=y]", 4}, {";<", 4}, {";,", 4}, {";:", 4}, {";@x=y", 4}, {";)", 4}, {";]", 4}, {";\\", 4}, {"; (c) x", 9},
 		// No value.
-		{";x=", 6}, {";x= ", 7}, {";x=(c)", 9}, {";x= (c) ", 11}, {";x=;", 6}, {";x= ;", 7}, {";x=;y=z", 6}, {";x=(c);", 9}, {";x=[y]", 6}, {";x= [y]", 7}, {";x=<y>", 6}, {";x=,", 6}, {";x=:", 6}, {";x=@", 6}, {";x=)", 6}, {";x=]", 6}, {";x=\\y", 6},
+		{";x=", 6}, {";x= ", 7}, {";x=(c)", 9}, {";x= (c) ", 11}, {";x=;", 6}, {";x=;;", 6}, {";x=;;y=z", 6}, {";;x=;", 7}, {";;x=", 7}, {";x= ;", 7}, {";x=;y=z", 6}, {";x=(c);", 9}, {";x=[y]", 6}, {";x= [y]", 7}, {";x=<y>", 6}, {";x=,", 6}, {";x=:", 6}, {";x=@", 6}, {";x=)", 6}, {";x=]", 6}, {";x=\\y", 6},
 		// Something behind it.
 		{";x=y z", 8}, {";x=y z=w", 8}, {";x=y \"z\"", 8}, {";x=y\"z\"", 7}, {";x=\"y\"z", 9}, {";x=\"y\"z=w", 9}, {";x=\"y\" \"z\"", 10}, {";x=\"y\"\"z\"", 9}, {";x=y[z]", 7}, {";x=y,z=w", 7}, {";x=y:", 7}, {";x=y@z", 7}, {";x=y<", 7}, {";x=y)", 7}, {";x= y z", 9}, {";x=y(c)z", 10}, {";x=(c)y z", 11}, {";x=y,", 7},
 		// Names of none of the four kinds.
