@@ -1387,9 +1387,13 @@ func slowTokens(nodes []impl.FilterNode, at int64) []string {
 	return []string{word}
 }
 
-func slowQuoted(text string) string {
-	return `"` + strings.NewReplacer(`"`, `\"`, `\`, `\\`).Replace(text) + `"`
-}
+// These are made once, since that takes longer than what they do.
+var (
+	escapes = strings.NewReplacer(`"`, `\"`, `\`, `\\`)
+	unfolds = strings.NewReplacer("\r\n ", " ", "\r\n\t", "\t")
+)
+
+func slowQuoted(text string) string { return `"` + escapes.Replace(text) + `"` }
 
 func slowTexts(texts []string) []string {
 	if len(texts) == 1 {
@@ -1712,6 +1716,7 @@ func runScript(t *testing.T, script string, env impl.FilterEnv) impl.FilterAnswe
 	if read.Code != impl.OK {
 		t.Fatalf("%s: %s", short(script), short(shown(read)))
 	}
+	checkSameAsCode(t, read.Nodes, env)
 	return impl.RunFilter(read.Nodes, env)
 }
 
@@ -2321,11 +2326,21 @@ type slowRunner struct {
 var placePattern = regexp.MustCompile(`\$\{([a-z]+|[0-9])\}`)
 
 func slowRun(nodes []impl.FilterNode, env impl.FilterEnv) impl.FilterAnswer {
-	r := slowRunner{nodes: nodes, env: env, marks: make([]string, 10)}
+	r := newSlowRunner(env)
+	r.nodes = nodes
+	r.command(int64(len(nodes) - 1))
+	return r.end()
+}
+
+func newSlowRunner(env impl.FilterEnv) *slowRunner {
+	r := slowRunner{env: env, marks: make([]string, 10)}
 	if head := impl.ReadHead(env.Message); head.Code == impl.OK {
 		r.fields = head.Fields
 	}
-	r.command(int64(len(nodes) - 1))
+	return &r
+}
+
+func (r *slowRunner) end() impl.FilterAnswer {
 	if r.answer.Code != impl.OK {
 		return r.answer
 	}
@@ -2493,7 +2508,7 @@ func (r *slowRunner) values(node impl.FilterNode) (values []string) {
 			values = append(values, r.env.To)
 		case node.Kind == impl.FlHeader:
 			for _, value := range impl.FindField(r.fields, name) {
-				value = strings.NewReplacer("\r\n ", " ", "\r\n\t", "\t").Replace(value)
+				value = unfolds.Replace(value)
 				value = strings.Trim(value, " \t")
 				values = append(values, value[:min(len(value), maxWildText)])
 			}
