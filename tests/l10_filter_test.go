@@ -649,19 +649,21 @@ var grammar = map[string][]string{
 	"moretext": {"", ", TEXT moretext"},
 }
 
-// recognizer tells how far tokens are the beginning of a script.
+// recognizer tells how far tokens are the beginning of something that a grammar has.
 type recognizer struct {
-	tokens []string
-	far    int
-	known  map[string][]int
+	grammar map[string][]string
+	isToken func(name, token string) bool
+	tokens  []string
+	far     int
+	known   map[string][]int
 }
 
 // ends are all places at which something that begins at a place can end.
 func (r *recognizer) ends(name string, at int) []int {
-	ways, isName := grammar[name]
+	ways, isName := r.grammar[name]
 	if !isName {
 		r.far = max(r.far, at)
-		if at < len(r.tokens) && isToken(name, r.tokens[at]) {
+		if at < len(r.tokens) && r.isToken(name, r.tokens[at]) {
 			return []int{at + 1}
 		}
 		return nil
@@ -706,14 +708,19 @@ func isToken(name, token string) bool {
 	return name == token
 }
 
-// firstIll is the number of the first token that cannot stand where it does, that of the end perhaps, or -1.
-func firstIll(tokens []string) int {
-	r := recognizer{tokens: tokens, known: map[string][]int{}}
-	if slices.Contains(r.ends("script", 0), len(tokens)) {
+// firstIllOf is the number of the first token that cannot stand where it does, that of the end perhaps, or -1.
+func (r *recognizer) firstIllOf(name string) int {
+	r.known = map[string][]int{}
+	if slices.Contains(r.ends(name, 0), len(r.tokens)) {
 		return -1
 	}
 	// What was asked for furthest on was not there.
 	return r.far
+}
+
+func firstIll(tokens []string) int {
+	r := recognizer{grammar: grammar, isToken: isToken, tokens: tokens}
+	return r.firstIllOf("script")
 }
 
 // checkTokensOf writes tokens with line ends among them, and looks at the line of the first ill one.
