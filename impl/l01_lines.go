@@ -45,6 +45,9 @@ type Bytes struct {
 const lineEnd = "\r\n"
 const blanks = " \t"
 
+// The line that ends a stuffed text.
+const lastLine = "." + lineEnd
+
 // A line of base 64 or of quoted bytes has at most so many bytes.
 const maxCodedLine = 76
 
@@ -119,29 +122,39 @@ func Stuff(text string) string {
 		out = append(out, line...)
 		out = append(out, lineEnd...)
 	}
-	out = append(out, '.')
-	out = append(out, lineEnd...)
+	out = append(out, lastLine...)
 	return string(out)
 }
 
 // Unstuff takes a text up to its point, see chapter 2.
 func Unstuff(stream string) Cut {
-	if tooLong(stream) {
+	size := stuffedSize(stream)
+	if tooLong(stream) || size == 0 {
 		return Cut{}
 	}
 	var out []byte
-	for {
-		line, rest, ended := strings.Cut(stream, lineEnd)
-		if !ended {
-			return Cut{}
-		}
-		if line == "." {
-			return Cut{Done: true, Text: string(out), Rest: strings.Clone(rest)}
-		}
+	for _, line := range Lines(stream[:size-len(lastLine)]) {
 		out = append(out, strings.TrimPrefix(line, ".")...)
 		out = append(out, lineEnd...)
-		stream = rest
 	}
+	return Cut{Done: true, Text: string(out), Rest: strings.Clone(stream[size:])}
+}
+
+// stuffedSize is how many bytes the text has that a stream begins with, up to its end, or 0 if that has not come.
+func stuffedSize(stream string) int {
+	if strings.HasPrefix(stream, lastLine) {
+		return len(lastLine)
+	}
+	return sizeThrough(stream, lineEnd+lastLine)
+}
+
+// sizeThrough is how many bytes of a text stand up to the end of the first such piece in it, or 0 if there is none.
+func sizeThrough(text, piece string) int {
+	at := strings.Index(text, piece)
+	if at < 0 {
+		return 0
+	}
+	return at + len(piece)
 }
 
 // Base64 writes bytes as digits of six bits, see chapter 2.
