@@ -460,4 +460,10 @@ func TestLinesAreNewMemory(t *testing.T) {
 	if got := impl.Lines("a\r\nb\r\n"); !slices.Equal(got, []string{"a", "b"}) {
 		t.Errorf("Lines: %q", got)
 	}
+	text := strings.Clone("first\r\n\r\n.second\r\n.\r\nbehind\r\n")
+	cut := impl.Unstuff(text)
+	wantText(t, "Rest of Unstuff", text, cut.Rest, "behind\r\n")
+	wantOwnMemory(t, "Unstuff", text, cut.Text, cut.Rest)
+	wantOwnMemory(t, "Lines", text, impl.Lines(text)...)
+	wantOwnMemory(t, "Normal", text, impl.Normal(text))
 }
