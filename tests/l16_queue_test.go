@@ -688,6 +688,9 @@ type slowQueue struct {
 	hosts  []impl.QueueOp
 	events []impl.QueueEvent
 	boxes  []impl.Local
+	// What is done with an item ahead of its delivery here, and how many items submissions may still make, if there is a world around.
+	here func(one impl.Local) bool
+	left *int64
 }
 
 func (q *slowQueue) held() int64 {
@@ -746,8 +749,11 @@ func (q *slowQueue) submit(op impl.QueueOp) (int64, []int64) {
 	if len(message) > maxText {
 		return impl.ErrSize, nil
 	}
-	if q.held()+int64(len(all.To)) > maxItems {
+	if q.held()+int64(len(all.To)) > maxItems || q.left != nil && *q.left < int64(len(all.To)) {
 		return impl.ErrFull, nil
+	}
+	if q.left != nil {
+		*q.left -= int64(len(all.To))
 	}
 	var numbers []int64
 	for _, to := range all.To {
@@ -782,6 +788,9 @@ func (q *slowQueue) pass(wait int64) int64 {
 			return impl.OK
 		}
 		q.time = first.next
+		if q.left != nil {
+			*q.left = maxItems
+		}
 		q.try(first)
 	}
 }
@@ -818,7 +827,12 @@ func (q *slowQueue) tell(item *slowItem, kind int64, host string) {
 func (q *slowQueue) try(item *slowItem) {
 	domain := item.to[strings.LastIndex(item.to, "@")+1:]
 	if domain == q.config.Local {
-		q.boxes = append(q.boxes, impl.Local{Item: item.number, To: item.to, From: item.from, Message: item.message})
+		one := impl.Local{Item: item.number, To: item.to, From: item.from, Message: item.message}
+		if q.here != nil && !q.here(one) {
+			q.bounce(item, "")
+			return
+		}
+		q.boxes = append(q.boxes, one)
 		q.tell(item, impl.EvDelivered, "")
 		return
 	}

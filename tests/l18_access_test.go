@@ -429,6 +429,8 @@ type slowAccess struct {
 	users    []impl.AccessUser
 	now      int64
 	sessions [maxSessions]slowSession
+	// What does an operation and keeps the store, if there is a world around.
+	change func(op impl.StoreOp) impl.StoreOut
 }
 
 func slowRunAccess(s impl.Store, users []impl.AccessUser, now int64, events []impl.AccessEvent) impl.AccessRun {
@@ -445,22 +447,26 @@ func slowRunAccess(s impl.Store, users []impl.AccessUser, now int64, events []im
 	}
 	a := slowAccess{store: s, users: users, now: now}
 	for _, event := range events {
-		for at := range a.sessions {
-			if int64(at) == event.Session {
-				a.hand(&a.sessions[at], event.Data)
-			}
-		}
-		for at := range a.sessions {
-			if one := &a.sessions[at]; one.idle != "" && !one.over {
-				a.changes(one)
-			}
-		}
+		a.event(event)
 	}
 	run := impl.AccessRun{Store: a.store}
 	for at := range a.sessions {
 		run.Told = append(run.Told, a.sessions[at].told.String())
 	}
 	return run
+}
+
+func (a *slowAccess) event(event impl.AccessEvent) {
+	for at := range a.sessions {
+		if int64(at) == event.Session {
+			a.hand(&a.sessions[at], event.Data)
+		}
+	}
+	for at := range a.sessions {
+		if one := &a.sessions[at]; one.idle != "" && !one.over {
+			a.changes(one)
+		}
+	}
 }
 
 func (s *slowSession) say(things ...any) {
@@ -665,6 +671,9 @@ func (a *slowAccess) answer(s *slowSession, asked slowAsked) string {
 
 // run does one operation on the store.
 func (a *slowAccess) run(op impl.StoreOp) impl.StoreOut {
+	if a.change != nil {
+		return a.change(op)
+	}
 	store, out := slowOp(a.store, op)
 	a.store = store
 	return out
